@@ -1,0 +1,184 @@
+package tests
+
+import (
+	"fmt"
+	"math"
+	"reflect"
+	"slices"
+	"strings"
+	"testing"
+
+	"loop.example/maltclaim/impl"
+)
+
+// wantCase is a want, and whether it is ok.
+type wantCase struct {
+	name string
+	want impl.ClaimWant
+	ok   bool
+}
+
+func checkWants(t *testing.T, cases []wantCase) {
+	t.Helper()
+	for _, c := range cases {
+		if got := wantOk(t, c.want); got != c.ok {
+			t.Errorf("%s: got %v, the document asks for %v: %+v", c.name, got, c.ok, c.want)
+		}
+	}
+}
+
+// bookCase is a book, and whether it is ok.
+type bookCase struct {
+	name string
+	book impl.ClaimBook
+	ok   bool
+}
+
+func checkBooks(t *testing.T, cases []bookCase) {
+	t.Helper()
+	for _, c := range cases {
+		if got := bookOk(t, c.book); got != c.ok {
+			t.Errorf("%s: got %v, the document asks for %v: %+v", c.name, got, c.ok, c.book)
+		}
+	}
+}
+
+// wantOk asks with spare room behind all lists, and tells of anything that was written.
+func wantOk(t *testing.T, w impl.ClaimWant) bool {
+	t.Helper()
+	given, before := roomyWant(w), roomyWant(w)
+	got := impl.ClaimWantOk(given)
+	if !reflect.DeepEqual(wholeWant(given), wholeWant(before)) {
+		t.Errorf("ClaimWantOk wrote into its argument: %+v", w)
+	}
+	if impl.ClaimWantOk(w) != got {
+		t.Errorf("ClaimWantOk answers differently at the same want: %+v", w)
+	}
+	return got
+}
+
+// bookOk asks as wantOk does.
+func bookOk(t *testing.T, b impl.ClaimBook) bool {
+	t.Helper()
+	given, before := roomyBook(b), roomyBook(b)
+	got := impl.ClaimBookOk(given)
+	if !reflect.DeepEqual(wholeBook(given), wholeBook(before)) {
+		t.Errorf("ClaimBookOk wrote into its argument: %+v", b)
+	}
+	if impl.ClaimBookOk(b) != got {
+		t.Errorf("ClaimBookOk answers differently at the same book: %+v", b)
+	}
+	return got
+}
+
+// roomy is a copy with three filled elements of spare room; nil stays nil.
+func roomy[T any](list []T, fill T) []T {
+	if list == nil {
+		return nil
+	}
+	return append(slices.Clone(list), fill, fill, fill)[:len(list)]
+}
+
+func roomyWant(w impl.ClaimWant) impl.ClaimWant {
+	w.Stuffs = roomy(w.Stuffs, "spare")
+	w.Uses = roomy(w.Uses, impl.ClaimUse{Name: "spare", Role: 9, Amount: 9})
+	w.Opens = roomy(w.Opens, "spare")
+	w.Shuts = roomy(w.Shuts, "spare")
+	return w
+}
+
+func roomyBook(b impl.ClaimBook) impl.ClaimBook {
+	b.Foes = roomy(b.Foes, impl.ClaimFoe{A: "spare", B: "spare"})
+	b.Valves = roomy(b.Valves, "spare")
+	b.Spots = roomy(b.Spots, impl.ClaimSpot{Name: "spare"})
+	for i := range b.Spots {
+		b.Spots[i].May = roomy(b.Spots[i].May, "spare")
+	}
+	b.Parts = roomy(b.Parts, impl.ClaimPart{Stopped: true})
+	for i := range b.Parts {
+		b.Parts[i].Want = roomyWant(b.Parts[i].Want)
+	}
+	return b
+}
+
+// whole is a list with its spare room.
+func whole[T any](list []T) []T {
+	return list[:cap(list)]
+}
+
+func wholeWant(w impl.ClaimWant) []any {
+	return []any{w, roomOf(w.Stuffs), roomOf(w.Uses), roomOf(w.Opens), roomOf(w.Shuts)}
+}
+
+func wholeBook(b impl.ClaimBook) []any {
+	all := []any{b, roomOf(b.Foes), roomOf(b.Valves), roomOf(b.Spots), roomOf(b.Parts)}
+	for _, s := range b.Spots {
+		all = append(all, roomOf(s.May))
+	}
+	for _, p := range b.Parts {
+		all = append(all, wholeWant(p.Want)...)
+	}
+	return all
+}
+
+// roomOf is at most the three elements behind the end, as the room behind them is not ours to know.
+func roomOf[T any](list []T) []T {
+	spare := whole(list)[len(list):]
+	return spare[:min(3, len(spare))]
+}
+
+// manyNames is n names, ascending.
+func manyNames(n int) []string {
+	var list []string
+	for i := range n {
+		list = append(list, fmt.Sprintf("n%03d", i))
+	}
+	return list
+}
+
+// manyUses is n places with ClaimBy, ascending.
+func manyUses(n int) []impl.ClaimUse {
+	var list []impl.ClaimUse
+	for _, name := range manyNames(n) {
+		list = append(list, impl.ClaimUse{Name: name, Role: impl.ClaimBy})
+	}
+	return list
+}
+
+// badNames are texts that are no names.
+func badNames() []string {
+	list := []string{"", "nine-byte", strings.Repeat("a", 9), strings.Repeat("z", 5000),
+		"A", "Z", "_", " ", "a b", "a\n", "a\x00", "\x00", "a,b", "a<1", "a>1", "a.b",
+		"é", "aé", "ａ", "１", "٣", "–", "ı", "ſ", "\u212a", "\xff", "a\xff", "\xc3", "\xed\xa0\x80", "\ufffd", "😀",
+		"aaaaaaaA", "Aaaaaaaa", "aaaAaaaa"}
+	for c := range 256 {
+		if s := string([]byte{byte(c)}); !strings.Contains("abcdefghijklmnopqrstuvwxyz0123456789-", s) {
+			list = append(list, s, "a"+s, s+"a")
+		}
+	}
+	return list
+}
+
+// goodNames are texts that are names.
+func goodNames() []string {
+	list := []string{"-", "--------", "12345678", "abcdefgh", "a-1", "0", "00", "-a"}
+	for _, c := range "abcdefghijklmnopqrstuvwxyz0123456789-" {
+		list = append(list, string(c), "a"+string(c), string(c)+"a")
+	}
+	return list
+}
+
+// oddNumbers are numbers around the limits, and far off them.
+func oddNumbers() []int {
+	return []int{math.MinInt, math.MinInt + 1, -1000001, -1000, -1, 0, 1, 2, 3, 4, 999, 1000, 1001, 999999, 1000000, 1000001, math.MaxInt - 1, math.MaxInt}
+}
+
+// disordered are lists that are not ascending.
+func disordered() [][]string {
+	return [][]string{{"b", "a"}, {"a", "a"}, {"ab", "a"}, {"a", "-"}, {"a", "0"}, {"0", "-"}, {"a", "c", "b"}, {"b", "a", "c"}, {"a", "b", "b"}, {"a", "b", "a"}, {"b9", "b10"}}
+}
+
+// ordered are lists that are ascending.
+func ordered() [][]string {
+	return [][]string{{"a"}, {"a", "b"}, {"a", "ab"}, {"a", "a-", "a0", "aa"}, {"-", "0", "a"}, {"a", "b", "c"}, {"b10", "b9"}, {"ab", "b"}}
+}
