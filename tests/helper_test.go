@@ -7,6 +7,7 @@ import (
 	"slices"
 	"strings"
 	"testing"
+	"unsafe"
 
 	"loop.example/maltclaim/impl"
 )
@@ -69,6 +70,90 @@ func bookOk(t *testing.T, b impl.ClaimBook) bool {
 		t.Errorf("ClaimBookOk answers differently at the same book: %+v", b)
 	}
 	return got
+}
+
+// grantOf asks ClaimGrant, and looks at all that is asked of every call: nothing is written into an argument, the answer
+// is new memory, it is the same each time, and ClaimCode tells the same code.
+func grantOf(t *testing.T, b impl.ClaimBook, w impl.ClaimWant) (impl.ClaimBook, int) {
+	t.Helper()
+	givenBook, givenWant := roomyBook(b), roomyWant(w)
+	got, code := impl.ClaimGrant(givenBook, givenWant)
+	if c := impl.ClaimCode(givenBook, givenWant); c != code {
+		t.Errorf("ClaimCode %d, but ClaimGrant %d: %+v, %+v", c, code, b, w)
+	}
+	if !reflect.DeepEqual(wholeBook(givenBook), wholeBook(roomyBook(b))) || !reflect.DeepEqual(wholeWant(givenWant), wholeWant(roomyWant(w))) {
+		t.Errorf("an argument was written into: %+v, %+v", b, w)
+	}
+	checkNewMemory(t, spansOfBook(got), append(spansOfBook(givenBook), spansOfWant(givenWant)...))
+	again, c := impl.ClaimGrant(b, w)
+	if c != code || !sameBook(again, got) {
+		t.Errorf("another answer at the same arguments: %+v, %+v", b, w)
+	}
+	checkNewMemory(t, spansOfBook(again), append(spansOfBook(b), spansOfWant(w)...))
+	return got, code
+}
+
+// span is the memory of a list, spare room included.
+type span struct{ start, end uintptr }
+
+func spanOf[T any](list []T) span {
+	var one T
+	start := uintptr(unsafe.Pointer(unsafe.SliceData(list)))
+	return span{start, start + uintptr(cap(list))*unsafe.Sizeof(one)}
+}
+
+func spansOfWant(w impl.ClaimWant) []span {
+	return []span{spanOf(w.Stuffs), spanOf(w.Uses), spanOf(w.Opens), spanOf(w.Shuts)}
+}
+
+func spansOfBook(b impl.ClaimBook) []span {
+	all := []span{spanOf(b.Foes), spanOf(b.Spots), spanOf(b.Valves), spanOf(b.Parts)}
+	for _, s := range b.Spots {
+		all = append(all, spanOf(s.May))
+	}
+	for _, p := range b.Parts {
+		all = append(all, spansOfWant(p.Want)...)
+	}
+	return all
+}
+
+func checkNewMemory(t *testing.T, answer, arguments []span) {
+	t.Helper()
+	for i, a := range answer {
+		if slices.ContainsFunc(arguments, a.meets) {
+			t.Errorf("list %d of the answer shares memory with an argument", i)
+		}
+		if slices.ContainsFunc(answer[i+1:], a.meets) {
+			t.Errorf("list %d of the answer shares memory with another one", i)
+		}
+	}
+}
+
+func (a span) meets(b span) bool {
+	return a.start < b.end && b.start < a.end
+}
+
+// sameBook takes the empty list and the nil list for the same.
+func sameBook(a, b impl.ClaimBook) bool {
+	return reflect.DeepEqual(tidyBook(a), tidyBook(b))
+}
+
+// tidyBook is a copy of its own, with nil for each empty list.
+func tidyBook(b impl.ClaimBook) impl.ClaimBook {
+	b.Foes, b.Valves = tidy(b.Foes), tidy(b.Valves)
+	b.Spots, b.Parts = tidy(b.Spots), tidy(b.Parts)
+	for i := range b.Spots {
+		b.Spots[i].May = tidy(b.Spots[i].May)
+	}
+	for i := range b.Parts {
+		w := &b.Parts[i].Want
+		w.Stuffs, w.Uses, w.Opens, w.Shuts = tidy(w.Stuffs), tidy(w.Uses), tidy(w.Opens), tidy(w.Shuts)
+	}
+	return b
+}
+
+func tidy[T any](list []T) []T {
+	return append([]T(nil), list...)
 }
 
 // roomy is a copy with three filled elements of spare room; nil stays nil.
