@@ -220,22 +220,27 @@ func TestBooksOfAnyKind(t *testing.T) {
 	}
 }
 
-// Changes of one thing of a book that is ok come nearer to the edge than books made by chance.
+// nearBook is a book that is ok with one thing changed, which comes nearer to the edge than a book made by chance.
+func (c chance) nearBook() impl.ClaimBook {
+	b := aBook()
+	s := &b.Spots[c.Intn(len(b.Spots))]
+	w := &b.Parts[c.Intn(len(b.Parts))].Want
+	texts := []*string{&s.Name, &b.Valves[c.Intn(len(b.Valves))], &s.May[c.Intn(len(s.May))], &w.Shuts[c.Intn(len(w.Shuts))], &w.Uses[c.Intn(len(w.Uses))].Name}
+	numbers := []*int{&s.Cap, &s.Least, &s.Most, &b.Seen, &w.Number, &w.Kind, &w.Uses[0].Role, &w.Uses[c.Intn(len(w.Uses))].Amount}
+	if c.Intn(2) == 0 {
+		known := []string{"a", "ale", "b", "c", "d", "e", "f", "free", "hop", "j", "keg", "lye", "malt", "oil", "pan", "tun", "vat", "z", ""}
+		*texts[c.Intn(len(texts))] = known[c.Intn(len(known))]
+	} else {
+		*numbers[c.Intn(len(numbers))] += c.Intn(5) - 2
+	}
+	return b
+}
+
 func TestBooksWithOneChange(t *testing.T) {
 	c := chance{rand.New(rand.NewSource(3))}
 	count := map[bool]int{}
 	for range 40000 {
-		b := aBook()
-		s := &b.Spots[c.Intn(len(b.Spots))]
-		w := &b.Parts[c.Intn(len(b.Parts))].Want
-		texts := []*string{&s.Name, &b.Valves[c.Intn(len(b.Valves))], &s.May[c.Intn(len(s.May))], &w.Shuts[c.Intn(len(w.Shuts))], &w.Uses[c.Intn(len(w.Uses))].Name}
-		numbers := []*int{&s.Cap, &s.Least, &s.Most, &b.Seen, &w.Number, &w.Kind, &w.Uses[0].Role, &w.Uses[c.Intn(len(w.Uses))].Amount}
-		if c.Intn(2) == 0 {
-			known := []string{"a", "ale", "b", "c", "d", "e", "f", "free", "hop", "j", "keg", "lye", "malt", "oil", "pan", "tun", "vat", "z", ""}
-			*texts[c.Intn(len(texts))] = known[c.Intn(len(known))]
-		} else {
-			*numbers[c.Intn(len(numbers))] += c.Intn(5) - 2
-		}
+		b := c.nearBook()
 		asked := plainBookOk(b)
 		count[asked]++
 		checkBooks(t, []bookCase{{"one change", b, asked}})

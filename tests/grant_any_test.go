@@ -132,25 +132,6 @@ func plainGrant(b impl.ClaimBook, w impl.ClaimWant) (impl.ClaimBook, int) {
 	return b, code
 }
 
-// plainOver takes out a part, as it is when it is over with so much moved, and cleaned.
-func plainOver(b impl.ClaimBook, at, moved int) impl.ClaimBook {
-	b = tidyBook(b)
-	w := b.Parts[at].Want
-	for _, u := range w.Uses {
-		s := plainSpot(b, u.Name)
-		switch {
-		case u.Role == 1:
-			s.Least, s.Most = s.Least+u.Amount-min(moved, u.Amount), s.Most-min(moved, u.Amount)
-		case u.Role == 2:
-			s.Least, s.Most = s.Least+min(moved, u.Amount), s.Most-u.Amount+min(moved, u.Amount)
-		case w.Kind == 2:
-			s.May = nil
-		}
-	}
-	b.Parts = slices.Delete(b.Parts, at, at+1)
-	return b
-}
-
 // checkAnyGrant holds both functions against the plain writing, and gives the code.
 func checkAnyGrant(t *testing.T, b impl.ClaimBook, w impl.ClaimWant) (impl.ClaimBook, int) {
 	t.Helper()
@@ -246,7 +227,8 @@ func TestGrantsOfStations(t *testing.T) {
 			if len(b.Parts) > c.Intn(8) {
 				at := c.Intn(len(b.Parts))
 				gone = append(gone, b.Parts[at].Want)
-				b = plainOver(b, at, c.Intn(3))
+				b.Parts[at].Stopped = true
+				b, _ = plainOver(b, b.Parts[at].Want.Number, min(c.Intn(3), plainBound(b.Parts[at].Want)), true)
 			}
 			checkGone(t, b, gone)
 		}

@@ -93,6 +93,50 @@ func grantOf(t *testing.T, b impl.ClaimBook, w impl.ClaimWant) (impl.ClaimBook, 
 	return got, code
 }
 
+// stopOf asks ClaimStop as grantOf asks ClaimGrant.
+func stopOf(t *testing.T, b impl.ClaimBook, number int) (impl.ClaimBook, int) {
+	t.Helper()
+	return changeOf(t, b, func(b impl.ClaimBook) (impl.ClaimBook, int) { return impl.ClaimStop(b, number) })
+}
+
+// overOf asks ClaimOver as grantOf asks ClaimGrant.
+func overOf(t *testing.T, b impl.ClaimBook, number, moved int, done bool) (impl.ClaimBook, int) {
+	t.Helper()
+	return changeOf(t, b, func(b impl.ClaimBook) (impl.ClaimBook, int) { return impl.ClaimOver(b, number, moved, done) })
+}
+
+func changeOf(t *testing.T, b impl.ClaimBook, change func(b impl.ClaimBook) (impl.ClaimBook, int)) (impl.ClaimBook, int) {
+	t.Helper()
+	given := roomyBook(b)
+	got, code := change(given)
+	if !reflect.DeepEqual(wholeBook(given), wholeBook(roomyBook(b))) {
+		t.Errorf("the book was written into: %+v", b)
+	}
+	checkNewMemory(t, spansOfBook(got), spansOfBook(given))
+	again, c := change(b)
+	if c != code || !sameBook(again, got) {
+		t.Errorf("another answer at the same arguments: %+v", b)
+	}
+	checkNewMemory(t, spansOfBook(again), append(spansOfBook(b), spansOfBook(got)...))
+	return got, code
+}
+
+// valveOf asks ClaimMay and ClaimShut.
+func valveOf(t *testing.T, b impl.ClaimBook, valve string) (int, []int) {
+	t.Helper()
+	given := roomyBook(b)
+	may, shut := impl.ClaimMay(given, valve), impl.ClaimShut(given, valve)
+	if !reflect.DeepEqual(wholeBook(given), wholeBook(roomyBook(b))) {
+		t.Errorf("the book was written into: %+v", b)
+	}
+	again := impl.ClaimShut(b, valve)
+	if impl.ClaimMay(b, valve) != may || !slices.Equal(again, shut) {
+		t.Errorf("another answer at the same arguments: %+v, %q", b, valve)
+	}
+	checkNewMemory(t, []span{spanOf(shut), spanOf(again)}, append(spansOfBook(given), spansOfBook(b)...))
+	return may, shut
+}
+
 // span is the memory of a list, spare room included.
 type span struct{ start, end uintptr }
 
@@ -106,12 +150,13 @@ func spansOfWant(w impl.ClaimWant) []span {
 	return []span{spanOf(w.Stuffs), spanOf(w.Uses), spanOf(w.Opens), spanOf(w.Shuts)}
 }
 
+// spansOfBook looks into the spare room too: what was left there must not be shared either.
 func spansOfBook(b impl.ClaimBook) []span {
 	all := []span{spanOf(b.Foes), spanOf(b.Spots), spanOf(b.Valves), spanOf(b.Parts)}
-	for _, s := range b.Spots {
+	for _, s := range whole(b.Spots) {
 		all = append(all, spanOf(s.May))
 	}
-	for _, p := range b.Parts {
+	for _, p := range whole(b.Parts) {
 		all = append(all, spansOfWant(p.Want)...)
 	}
 	return all
